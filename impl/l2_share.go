@@ -57,9 +57,9 @@ func sumOf(list []int) int {
 	return sum
 }
 
-// validRow reports whether there are as many numbers as boxes can be side by side, from 0 to a greatest one.
-func validRow(list []int, greatest int) bool {
-	if !within(len(list), 1, MaxKids) {
+// validList reports whether there are not too many numbers, from 0 to a greatest one.
+func validList(list []int, most int, greatest int) bool {
+	if len(list) > most {
 		return false
 	}
 	for _, n := range list {
@@ -68,6 +68,11 @@ func validRow(list []int, greatest int) bool {
 		}
 	}
 	return true
+}
+
+// validRow reports whether there are as many numbers as boxes can be side by side, from 0 to a greatest one.
+func validRow(list []int, greatest int) bool {
+	return len(list) > 0 && validList(list, MaxKids, greatest)
 }
 
 // ShareSpace returns a space that is split by weights.

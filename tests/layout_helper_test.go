@@ -42,7 +42,7 @@ func kindsOf(parents []int) [][]impl.Box {
 		if slices.Contains(parents, i) {
 			looks = []impl.Box{box(p, impl.BoxBlock), box(p, impl.BoxRow), box(p, impl.BoxColumn)}
 		} else {
-			looks = []impl.Box{leaf(p, 13+10*i, 29-7*i), leaf(p, 0, 0), box(p, impl.BoxRow)}
+			looks = []impl.Box{leaf(p, 13+10*i, max(0, 29-7*i)), leaf(p, 0, 0), box(p, impl.BoxRow)}
 		}
 		var longer [][]impl.Box
 		for _, tree := range out {
