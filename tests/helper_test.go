@@ -122,16 +122,24 @@ func checkNoRect(t *testing.T, what string, got impl.Rect, ok bool) {
 // checkFresh reports an error if a call changes its argument, shares memory with it, or remembers its result.
 func checkFresh(t *testing.T, what string, argument []int, call func(argument []int) []int) {
 	t.Helper()
-	given := append(slices.Clone(argument), 7, 7, 7)[:len(argument)]
+	checkFreshList(t, what, argument, 7, -77, call)
+}
+
+// checkFreshList does what checkFresh does, with a value for the spare capacity of the argument and one that is written into the result.
+func checkFreshList[T comparable](t *testing.T, what string, argument []T, spare T, written T, call func(argument []T) []T) {
+	t.Helper()
+	all := len(argument) + 3
+	given := append(slices.Clone(argument), spare, spare, spare)[:len(argument)]
+	copied := slices.Clone(given[:all])
 	first := call(given)
 	kept := slices.Clone(first)
-	if whole := given[:len(argument)+3]; !slices.Equal(given, argument) || !slices.Equal(whole[len(argument):], []int{7, 7, 7}) {
-		t.Errorf("%s changes its argument: %v, was %v", what, whole, argument)
+	if !slices.Equal(given[:all], copied) {
+		t.Errorf("%s changes its argument: %v, was %v", what, given[:all], copied)
 	}
 	for i := range first[:cap(first)] {
-		first[:cap(first)][i] = -77
+		first[:cap(first)][i] = written
 	}
-	if !slices.Equal(given, argument) {
+	if !slices.Equal(given[:all], copied) {
 		t.Errorf("%s shares memory with its argument", what)
 	}
 	if second := call(given); !slices.Equal(second, kept) {

@@ -210,21 +210,5 @@ func withSpare(tree []impl.Box) []impl.Box {
 // checkFreshTree reports an error if a call changes its argument, shares memory with it, or remembers its result.
 func checkFreshTree(t *testing.T, what string, tree []impl.Box, call func(tree []impl.Box) []impl.Box) {
 	t.Helper()
-	given, copied := withSpare(tree), withSpare(tree)
-	all := len(tree) + 3
-	unchanged := func() bool { return slices.Equal(given[:all], copied[:all]) }
-	first := call(given)
-	kept := slices.Clone(first)
-	if !unchanged() {
-		t.Errorf("%s changes its argument: %v, was %v", what, given[:all], copied[:all])
-	}
-	for i := range first[:cap(first)] {
-		first[:cap(first)][i] = leaf(-77, -77, -77)
-	}
-	if !unchanged() {
-		t.Errorf("%s shares memory with its argument", what)
-	}
-	if second := call(given); !slices.Equal(second, kept) {
-		t.Errorf("%s = %v the second time, was %v", what, second, kept)
-	}
+	checkFreshList(t, what, tree, leaf(91, 1, 1), leaf(-77, -77, -77), call)
 }
