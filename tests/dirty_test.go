@@ -258,6 +258,16 @@ func TestDirtyBoxesAreInDirtyRoots(t *testing.T) {
 	})
 }
 
+// P59
+func TestBoxesAreDirtyIfBoxesAroundThemAre(t *testing.T) {
+	eachMarks(func(tree []impl.Box, marks []int) {
+		want := boxesThat(tree, func(at int) bool { return anyOf(impl.PathTo(tree, at), marks) })
+		if boxes := impl.DirtyBoxes(tree, marks); !slices.Equal(boxes, want) {
+			t.Errorf("DirtyBoxes(%v, %v) = %v, want %v", tree, marks, boxes, want)
+		}
+	})
+}
+
 // P60
 func TestCleanBoxesAreNotDirty(t *testing.T) {
 	eachMarks(func(tree []impl.Box, marks []int) {
@@ -270,6 +280,27 @@ func TestCleanBoxesAreNotDirty(t *testing.T) {
 		}
 		checkRow(t, what+" of the first box", mustClean(t, tree, marks, 0))
 	})
+}
+
+// P61
+func TestLayoutsBeginAtBoxesThatAreFlexible(t *testing.T) {
+	for _, tree := range treesOfAllKinds() {
+		for at := range tree {
+			root, path := impl.LayoutRoot(tree, at), impl.PathTo(tree, at)
+			depth := slices.Index(path, root)
+			if depth < 0 || root == at && at > 0 {
+				t.Fatalf("LayoutRoot(%v, %d) = %d, with the path %v", tree, at, root, path)
+			}
+			if kind := tree[root].Kind; root > 0 && kind != impl.BoxRow && kind != impl.BoxColumn {
+				t.Errorf("LayoutRoot(%v, %d) = %d, which has the kind %d", tree, at, root, kind)
+			}
+			for _, between := range path[depth+1 : max(depth+1, len(path)-1)] {
+				if tree[between].Kind != impl.BoxBlock {
+					t.Errorf("LayoutRoot(%v, %d) = %d, with %d between", tree, at, root, between)
+				}
+			}
+		}
+	}
 }
 
 // checkKept counts the boxes with other boxes in them that keep their rectangle when a box gets another style, and reports an error if these do not keep theirs.
@@ -314,6 +345,22 @@ func TestBoxesInBoxesThatKeepTheirPlacesKeepTheirs(t *testing.T) {
 	}
 }
 
+// P155
+func TestOneMarkedBoxIsOneRoot(t *testing.T) {
+	eachBox(func(tree []impl.Box, at int) {
+		what := fmt.Sprintf("DirtyRoots(%v)", tree)
+		checkRow(t, fmt.Sprint(what, " of ", at), impl.DirtyRoots(tree, []int{at}), at)
+		path := impl.PathTo(tree, at)
+		if len(path) == 0 {
+			t.Fatalf("PathTo(%v, %d) is empty", tree, at)
+		}
+		for _, around := range path {
+			checkRow(t, fmt.Sprint(what, " of ", at, " and ", around), impl.DirtyRoots(tree, []int{at, around}), around)
+			checkRow(t, fmt.Sprint(what, " of ", around, " and ", at), impl.DirtyRoots(tree, []int{around, at}), around)
+		}
+	})
+}
+
 // P156
 func TestTheFirstBoxIsAroundAll(t *testing.T) {
 	for _, tree := range trees() {
@@ -342,10 +389,7 @@ func TestWhatIsCleanedPieceByPieceIsClean(t *testing.T) {
 
 // P158
 func TestBoxesInRowsMoveWithThem(t *testing.T) {
-	all := trees()
-	eachShape(4, func(parents []int) { all = append(all, kindsOf(parents)...) })
-	all = append(all, kindsOf(chain(impl.MaxDepth))...)
-	for _, tree := range all {
+	for _, tree := range treesOfAllKinds() {
 		for at, b := range tree {
 			want := 0
 			switch {

@@ -274,6 +274,38 @@ func TestAddedBoxesAreLast(t *testing.T) {
 	})
 }
 
+// P29
+func TestAddedBoxesCount(t *testing.T) {
+	eachBox(func(tree []impl.Box, at int) {
+		if !takesBox(tree, at) {
+			return
+		}
+		path := impl.PathTo(tree, at)
+		if !slices.Contains(path, at) {
+			t.Fatalf("PathTo(%v, %d) = %v", tree, at, path)
+		}
+		for _, b := range extras() {
+			what := fmt.Sprintf("AddBox(%v, %d, %v)", tree, at, b)
+			out, ok := impl.AddBox(tree, at, b)
+			mustTree(t, what, out, ok)
+			place := at + impl.CountIn(tree, at)
+			for i := range tree {
+				// All boxes from the place of the new one on are one later.
+				is, want := i, impl.CountIn(tree, i)
+				if i >= place {
+					is++
+				}
+				if slices.Contains(path, i) {
+					want++
+				}
+				if n := impl.CountIn(out, is); n != want {
+					t.Errorf("%s has CountIn %d for box %d, want %d", what, n, is, want)
+				}
+			}
+		}
+	})
+}
+
 // P30
 func TestRemovedBoxesAreGone(t *testing.T) {
 	eachBox(func(tree []impl.Box, at int) {

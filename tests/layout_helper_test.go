@@ -55,6 +55,13 @@ func kindsOf(parents []int) [][]impl.Box {
 	return out
 }
 
+// treesOfAllKinds returns trees of all small shapes in which boxes have all kinds, and deep ones.
+func treesOfAllKinds() [][]impl.Box {
+	out := trees()
+	eachShape(4, func(parents []int) { out = append(out, kindsOf(parents)...) })
+	return append(out, kindsOf(chain(impl.MaxDepth))...)
+}
+
 // dressedTrees returns trees of all small shapes in which boxes have all kinds, in several dresses, and trees at their limits.
 func dressedTrees() [][]impl.Box {
 	out := trees()
@@ -116,6 +123,36 @@ func eachLayout(t *testing.T, call func(tree []impl.Box, screen extent, rects []
 			call(tree, screen, rects)
 		}
 	}
+}
+
+// eachShown calls a function with all dressed trees, some screens with and without room, and the rectangles of the boxes.
+func eachShown(t *testing.T, call func(tree []impl.Box, screen extent, rects []impl.Rect)) {
+	t.Helper()
+	some := []extent{{0, 0}, {60, 41}, {100, 50}, {203, 350}}
+	eachLayout(t, func(tree []impl.Box, screen extent, rects []impl.Rect) {
+		if slices.Contains(some, screen) {
+			call(tree, screen, rects)
+		}
+	})
+}
+
+// edgePoints returns points of rectangles at their edges, and points beside them, each once.
+func edgePoints(rects []impl.Rect) [][2]int {
+	var out [][2]int
+	for _, r := range rects {
+		right, bottom := r.X+r.W, r.Y+r.H
+		out = append(out, [][2]int{
+			{r.X, r.Y}, {right - 1, bottom - 1}, {right - 1, r.Y}, {r.X, bottom - 1}, {right, r.Y}, {r.X, bottom},
+			{right, bottom - 1}, {right - 1, bottom}, {r.X - 1, r.Y}, {r.X, r.Y - 1}, {r.X + r.W/2, r.Y + r.H/2},
+		}...)
+	}
+	slices.SortFunc(out, func(a, b [2]int) int { return slices.Compare(a[:], b[:]) })
+	return slices.Compact(out)
+}
+
+// spillingTree returns a tree of which, on a screen of 60 to 40, a leaf spills downwards out of its block, and a row to the right out of the screen.
+func spillingTree() []impl.Box {
+	return []impl.Box{firstBox(impl.BoxRow, 5, 0, 0), box(0, impl.BoxBlock), leaf(1, 10, 40), box(0, impl.BoxRow), leaf(3, 30, 8), leaf(3, 30, 8)}
 }
 
 // needOf returns the size that a box of a tree needs, by the words of the specification.

@@ -274,3 +274,12 @@ func TestBoxesBeginWithTheirFirstBoxes(t *testing.T) {
 		}
 	})
 }
+
+// P139
+func TestDepthsAreLengthsOfPaths(t *testing.T) {
+	eachBox(func(tree []impl.Box, at int) {
+		if path := impl.PathTo(tree, at); impl.DepthOf(tree, at) != len(path)-1 {
+			t.Errorf("DepthOf(%v, %d) = %d, with the path %v", tree, at, impl.DepthOf(tree, at), path)
+		}
+	})
+}
