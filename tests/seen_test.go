@@ -35,12 +35,22 @@ func eachPartView(call func(sizes []int, view int, at int)) {
 	}
 }
 
-// seenOf returns the parts with a point in a view that has points.
+// isSeen reports whether one of the points from a beginning to an end, this not included, is in a view.
+func isSeen(begin int, end int, view int, at int) bool {
+	for point := begin; point < end; point++ {
+		if at <= point && point < at+view {
+			return true
+		}
+	}
+	return false
+}
+
+// seenOf returns the parts some of whose points are in a view, by the words of the specification.
 func seenOf(sizes []int, view int, at int) []int {
 	var out []int
 	begin := 0
 	for i, size := range sizes {
-		if max(begin, at) < min(begin+size, at+view) {
+		if isSeen(begin, begin+size, view, at) {
 			out = append(out, i)
 		}
 		begin += size
@@ -50,9 +60,7 @@ func seenOf(sizes []int, view int, at int) []int {
 
 func TestSeenPartsOfAllViews(t *testing.T) {
 	eachPartView(func(sizes []int, view int, at int) {
-		if seen := impl.SeenParts(sizes, view, at); view > 0 && !slices.Equal(seen, seenOf(sizes, view, at)) {
-			t.Errorf("SeenParts(%v, %d, %d) = %v", sizes, view, at, seen)
-		}
+		checkRow(t, fmt.Sprintf("SeenParts(%v, %d, %d)", sizes, view, at), impl.SeenParts(sizes, view, at), seenOf(sizes, view, at)...)
 	})
 }
 
@@ -74,14 +82,25 @@ func TestSeenPartsExamples(t *testing.T) {
 	checkRow(t, "SeenParts behind the largest parts", impl.SeenParts(full, 1, impl.MaxKids*impl.MaxBox))
 }
 
-// A view without size shows a part only if it begins before the view and ends behind it.
+// A view without size has no points, so it shows no part, also in the midst of one.
 func TestSeenPartsOfViewsWithoutSize(t *testing.T) {
-	sizes := []int{50, 0, 100, 20}
-	for _, edge := range []int{-1, 0, 50, 150, 170, 171, -impl.MaxSize, impl.MaxSize} {
-		checkRow(t, fmt.Sprintf("SeenParts of a view without size at the edge %d", edge), impl.SeenParts(sizes, 0, edge))
+	for _, sizes := range append(someSizes(), []int{10}, []int{2}, []int{3, 4, 5}, []int{50, 0, 100, 20}) {
+		places := []int{-impl.MaxSize, impl.MaxBox - 1, impl.MaxBox, impl.MaxBox + 1, total(sizes) - 1, total(sizes), impl.MaxSize}
+		for at := -2; at <= 172; at++ {
+			places = append(places, at)
+		}
+		for _, at := range places {
+			checkRow(t, fmt.Sprintf("SeenParts(%v, 0, %d)", sizes, at), impl.SeenParts(sizes, 0, at))
+		}
 	}
-	for at, part := range map[int]int{1: 0, 49: 0, 51: 2, 149: 2, 151: 3, 169: 3} {
-		checkRow(t, fmt.Sprintf("SeenParts of a view without size in the midst of a part at %d", at), impl.SeenParts(sizes, 0, at), part)
+}
+
+// A view with one point shows the part that has this point.
+func TestSeenPartsOfViewsWithOnePoint(t *testing.T) {
+	checkRow(t, "SeenParts of one part", impl.SeenParts([]int{10}, 1, 5), 0)
+	sizes := []int{50, 0, 100, 20}
+	for at, part := range map[int]int{0: 0, 49: 0, 50: 2, 149: 2, 150: 3, 169: 3} {
+		checkRow(t, fmt.Sprintf("SeenParts of a view of one point at %d", at), impl.SeenParts(sizes, 1, at), part)
 	}
 }
 
@@ -111,9 +130,12 @@ func TestSeenPartsChangeNothing(t *testing.T) {
 	}
 }
 
-// P84
+// P84, which speaks of views that have points
 func TestSeenPartsAreInTheView(t *testing.T) {
 	eachPartView(func(sizes []int, view int, at int) {
+		if view == 0 {
+			return
+		}
 		var want []int
 		begin := 0
 		for i, size := range sizes {
