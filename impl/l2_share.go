@@ -57,6 +57,11 @@ func sumOf(list []int) int {
 	return sum
 }
 
+// sumWithGaps returns how much sizes need one behind the other, with a gap between two of them.
+func sumWithGaps(sizes []int, gap int) int {
+	return sumOf(sizes) + gap*max(0, len(sizes)-1)
+}
+
 // validList reports whether there are not too many numbers, from 0 to a greatest one.
 func validList(list []int, most int, greatest int) bool {
 	if len(list) > most {
@@ -216,7 +221,7 @@ func OffsetsOf(sizes []int, space int, gap int, justify int) []int {
 		!within(justify, JustifyStart, JustifyBetween) {
 		return nil
 	}
-	spare := max(0, space-sumOf(sizes)-gap*(len(sizes)-1))
+	spare := max(0, space-sumWithGaps(sizes, gap))
 	offsets := spareInFront(spare, len(sizes), justify)
 	end := 0
 	for i, size := range sizes {
